@@ -45,17 +45,9 @@ func PlainCells(s string) []int {
 	var cells []int
 	at := 0
 	for at < len(s) {
-		if isLetter(s[at]) {
-			end := runEnd(s, at)
-			cells = append(cells, runCells(s, at, end)...)
-			at = end
-			continue
-		}
-		if isDigit(s[at]) && !digitBefore(s, at) {
-			cells = append(cells, SignNumber)
-		}
-		cells = append(cells, charCell(s[at]))
-		at++
+		to := chunkEnd(s, at)
+		cells = append(cells, chunkCells(s, at, to)...)
+		at = to
 	}
 	return cells
 }
@@ -126,6 +118,27 @@ func runEnd(s string, at int) int {
 		end++
 	}
 	return end
+}
+
+// chunkEnd returns the index behind the chunk of a text that begins at an
+// index. A chunk is a run of letters, or one other character.
+func chunkEnd(s string, at int) int {
+	if isLetter(s[at]) {
+		return runEnd(s, at)
+	}
+	return at + 1
+}
+
+// chunkCells returns the cells of a chunk of a text without contractions.
+func chunkCells(s string, from int, to int) []int {
+	if isLetter(s[from]) {
+		return runCells(s, from, to)
+	}
+	var cells []int
+	if isDigit(s[from]) && !digitBefore(s, from) {
+		cells = append(cells, SignNumber)
+	}
+	return append(cells, charCell(s[from]))
 }
 
 // allCapital reports whether a run has two letters or more, all of them
