@@ -87,7 +87,7 @@ func ParseCells(s string) ([]int, bool) {
 	// Each round begins behind the hyphen that ended the one before it. A text
 	// that ends with a hyphen has one more round, with an empty part.
 	for from <= len(s) {
-		to := hyphenAt(s, from)
+		to := indexFrom(s, from, '-')
 		cell := cellOfText(s[from:to])
 		if cell < 0 || len(list) == MaxCells {
 			return nil, false
@@ -135,11 +135,11 @@ func cellOfText(s string) int {
 	return CellOf(dots)
 }
 
-// hyphenAt returns the index of the first hyphen from an index on, and the
-// length of the text if there is none.
-func hyphenAt(s string, from int) int {
+// indexFrom returns the index of the first character c from an index on, and
+// the length of the text if there is none.
+func indexFrom(s string, from int, c byte) int {
 	at := from
-	for at < len(s) && s[at] != '-' {
+	for at < len(s) && s[at] != c {
 		at++
 	}
 	return at
